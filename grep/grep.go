@@ -1,0 +1,39 @@
+// Package grep: patterns, and searches with them: see DOC.md.
+package grep
+
+import (
+	"bre/api"
+	"bre/syntax"
+)
+
+// Prog: a pattern.
+type Prog struct {
+	tree syntax.Tree
+}
+
+// Compile: the pattern, or what is wrong with it, and where (P2).
+func Compile(s string) (*Prog, api.Errno, int) {
+	tree, errno, at := syntax.Parse(s)
+	if errno != api.OK {
+		return nil, errno, at
+	}
+	return &Prog{tree: tree}, api.OK, 0
+}
+
+// Groups: how many it has (P2).
+func (x *Prog) Groups() int {
+	// Compile hands out nil beside an error, and no call may panic.
+	if x == nil {
+		return 0
+	}
+	return x.tree.Groups
+}
+
+// Find: the first match from a place on, and of those that begin there the longest (P3, P4). Not built yet: it finds nothing.
+func (x *Prog) Find(line string, from int) (int, int, bool) { return 0, 0, false }
+
+// All: the matches that have a byte (P5). Not built yet: there are none.
+func (x *Prog) All(line string) []api.Span { return nil }
+
+// Grep: a text, line by line (P6). Not built yet: the answer is empty.
+func Grep(pattern string, text string, o api.Options) (string, int) { return "", 0 }
