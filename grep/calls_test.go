@@ -83,7 +83,9 @@ func TestCallsOfNoPattern(t *testing.T) {
 		if got := x.Groups(); got != 0 {
 			t.Errorf("Groups() of no pattern: %d", got)
 		}
-		x.Find("a", 0)
+		if i, j, ok := x.Find("a", 0); i != 0 || j != 0 || ok {
+			t.Errorf("Find of no pattern: %d, %d, %v", i, j, ok)
+		}
 		x.All("a")
 	}
 }

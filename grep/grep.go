@@ -3,12 +3,15 @@ package grep
 
 import (
 	"bre/api"
+	"bre/machine"
 	"bre/syntax"
 )
 
 // Prog: a pattern.
 type Prog struct {
-	tree syntax.Tree
+	groups int
+	refs   int // how many of them are referred to
+	code   machine.Code
 }
 
 // Compile: the pattern, or what is wrong with it, and where (P2).
@@ -17,7 +20,7 @@ func Compile(s string) (*Prog, api.Errno, int) {
 	if errno != api.OK {
 		return nil, errno, at
 	}
-	return &Prog{tree: tree}, api.OK, 0
+	return &Prog{groups: tree.Groups, refs: tree.Refs, code: machine.Build(tree.Row)}, api.OK, 0
 }
 
 // Groups: how many it has (P2).
@@ -26,11 +29,16 @@ func (x *Prog) Groups() int {
 	if x == nil {
 		return 0
 	}
-	return x.tree.Groups
+	return x.groups
 }
 
-// Find: the first match from a place on, and of those that begin there the longest (P3, P4). Not built yet: it finds nothing.
-func (x *Prog) Find(line string, from int) (int, int, bool) { return 0, 0, false }
+// Find: the first match from a place on, and of those that begin there the longest (P3). Of patterns with references back (P4) it is not built yet: it finds nothing.
+func (x *Prog) Find(line string, from int) (int, int, bool) {
+	if x == nil || x.refs > 0 {
+		return 0, 0, false
+	}
+	return x.code.Find(line, from)
+}
 
 // All: the matches that have a byte (P5). Not built yet: there are none.
 func (x *Prog) All(line string) []api.Span { return nil }

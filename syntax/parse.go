@@ -45,7 +45,7 @@ func Parse(s string) (Tree, api.Errno, int) {
 	if rowSize(r.inner.items) > api.MaxSize {
 		return Tree{}, api.ErrBig, 0
 	}
-	return Tree{Row: r.inner.items, Groups: r.groups}, api.OK, 0
+	return Tree{Row: r.inner.items, Groups: r.groups, Refs: r.refs}, api.OK, 0
 }
 
 // step reads the next item, or what repeats the one ahead, or one end of a group: what begins with c.

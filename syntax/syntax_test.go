@@ -104,8 +104,20 @@ func TestTrees(t *testing.T) {
 func TestNoTreeBesideAnError(t *testing.T) {
 	for _, p := range []string{strings.Repeat("a", 61), "a\n", `\(a\)\`, `\(a\)[`, `\(a\)\(b`, `a\{20\}\{20\}`} {
 		tree, errno, _ := Parse(p)
-		if errno == api.OK || tree.Row != nil || tree.Groups != 0 {
+		if errno == api.OK || tree.Row != nil || tree.Groups != 0 || tree.Refs != 0 {
 			t.Errorf("Parse(%q): %v beside error %d", p, tree, errno)
+		}
+	}
+}
+
+func TestHowManyAreReferredTo(t *testing.T) {
+	for _, c := range []struct {
+		pattern string
+		want    int
+	}{{"", 0}, {`\(a\)`, 0}, {`\(a\)[\1]`, 0}, {`\(a\)\1`, 1}, {`\(a\)\1\1`, 1}, {`\(a\)\1\{0\}`, 1}, {`\(a\)\(b\)\2`, 1}, {`\(a\)\(b\)\2\1\2`, 2}} {
+		tree, errno, _ := Parse(c.pattern)
+		if errno != api.OK || tree.Refs != c.want {
+			t.Errorf("Parse(%q): %d referred to, error %d; want %d", c.pattern, tree.Refs, errno, c.want)
 		}
 	}
 }

@@ -26,10 +26,11 @@ type Item struct {
 	Row    []Item
 }
 
-// Tree: a pattern: its row of items, and how many groups there are in it.
+// Tree: a pattern: its row of items, how many groups there are in it, and how many of them are referred to.
 type Tree struct {
 	Row    []Item
 	Groups int
+	Refs   int
 }
 
 // Set: a set of bytes.
