@@ -152,7 +152,7 @@ func TestLongLines(t *testing.T) {
 }
 
 func TestNoSearchHangsOnAnother(t *testing.T) {
-	patterns := []string{"ab*", "b*a", "^a", `\(a\)\{2\}`, "b$"}
+	patterns := []string{"ab*", `\(b*\)a\1`, "^a", `\(a\)\{2\}`, `\(.\)\1$`}
 	lines := []string{"", "abba", "baab", "aab", "bbbb"}
 	var want [5][5]api.Span
 	var shared [5]*Prog

@@ -10,7 +10,6 @@ import (
 // Prog: a pattern.
 type Prog struct {
 	groups int
-	refs   int // how many of them are referred to
 	code   machine.Code
 }
 
@@ -20,7 +19,7 @@ func Compile(s string) (*Prog, api.Errno, int) {
 	if errno != api.OK {
 		return nil, errno, at
 	}
-	return &Prog{groups: tree.Groups, refs: tree.Refs, code: machine.Build(tree.Row)}, api.OK, 0
+	return &Prog{groups: tree.Groups, code: machine.Build(tree)}, api.OK, 0
 }
 
 // Groups: how many it has (P2).
@@ -32,9 +31,9 @@ func (x *Prog) Groups() int {
 	return x.groups
 }
 
-// Find: the first match from a place on, and of those that begin there the longest (P3). Of patterns with references back (P4) it is not built yet: it finds nothing.
+// Find: the first match from a place on, and of those that begin there the longest (P3, P4).
 func (x *Prog) Find(line string, from int) (int, int, bool) {
-	if x == nil || x.refs > 0 {
+	if x == nil {
 		return 0, 0, false
 	}
 	return x.code.Find(line, from)

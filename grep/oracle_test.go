@@ -1,6 +1,8 @@
 package grep
 
 import (
+	"maps"
+	"slices"
 	"strconv"
 	"strings"
 	"testing"
@@ -10,18 +12,29 @@ import (
 
 // node: an item, or a row of them, of a pattern that is made up; it is matched here by the document's words, with all ways tried.
 type node struct {
-	text  string  // as it stands in a pattern
-	kind  byte    // 'b' one of bytes, '^', '$', 'r' a row (a group's, too), '*' repeated
-	bytes string  // of 'b'
-	parts []*node // of 'r' all, of '*' the one
-	least int
-	most  int // -1: any number
+	text   string  // as it stands in a pattern
+	kind   byte    // 'b' one of bytes, '^', '$', 'r' a row, 'g' a group, '\\' a reference, '*' repeated
+	bytes  string  // of 'b'
+	parts  []*node // of 'r' and 'g' all, of '*' the one
+	number int     // of 'g' and '\\'
+	least  int
+	most   int // -1: any number
 }
 
 // maker: the numbers behind what is made up, from a fixed beginning, so that a failure comes again.
 type maker struct {
 	seed   uint32
 	groups int
+	closed []int
+	refs   []int
+	back   bool // whether references are made up too
+}
+
+func (m *maker) pattern() *node {
+	m.groups = 0
+	m.closed = nil
+	m.refs = nil
+	return m.row(3)
 }
 
 func (m *maker) below(n int) int {
@@ -58,9 +71,10 @@ func (m *maker) plain(depth int) *node {
 	const all = "abc*"
 	choice := m.below(12)
 	if choice >= 8 && depth > 0 && m.groups < api.MaxGroups {
-		m.groups++
-		inner := m.row(depth - 1)
-		return &node{text: `\(` + inner.text + `\)`, kind: 'r', parts: inner.parts}
+		return m.group(depth)
+	}
+	if choice >= 5 && m.back && len(m.closed) > 0 {
+		return m.reference()
 	}
 	switch choice % 8 {
 	case 0, 1:
@@ -75,6 +89,26 @@ func (m *maker) plain(depth int) *node {
 		return &node{text: "[b-c]", kind: 'b', bytes: "bc"}
 	}
 	return &node{text: `\*`, kind: 'b', bytes: "*"}
+}
+
+func (m *maker) group(depth int) *node {
+	m.groups++
+	number := m.groups
+	inner := m.row(depth - 1)
+	m.closed = append(m.closed, number)
+	return &node{text: `\(` + inner.text + `\)`, kind: 'g', parts: inner.parts, number: number}
+}
+
+func (m *maker) reference() *node {
+	number := m.closed[m.below(len(m.closed))]
+	if !slices.Contains(m.refs, number) {
+		if len(m.refs) == api.MaxRefs {
+			number = m.refs[m.below(len(m.refs))]
+		} else {
+			m.refs = append(m.refs, number)
+		}
+	}
+	return &node{text: `\` + strconv.Itoa(number), kind: '\\', number: number}
 }
 
 func (m *maker) repeated(part *node) *node {
@@ -106,101 +140,165 @@ func (m *maker) line() string {
 	return b.String()
 }
 
-// ends: the places to which the ways of a node lead from place i, as bits.
-func (x *node) ends(line string, i int) uint32 {
-	switch x.kind {
-	case 'b':
-		if i < len(line) && strings.IndexByte(x.bytes, line[i]) >= 0 {
-			return 1 << (i + 1)
-		}
-		return 0
-	case '^':
-		if i == 0 {
-			return 1
-		}
-		return 0
-	case '$':
-		if i == len(line) {
-			return 1 << i
-		}
-		return 0
-	case 'r':
-		at := uint32(1) << i
-		for _, part := range x.parts {
-			at = part.endsOfAll(line, at)
-		}
-		return at
-	}
-	return x.endsOfTimes(line, i)
+// spot: where a way has got to, and what the groups that are referred to have matched on it: from and to, and 1, or noughts.
+type spot struct {
+	at   int
+	held [api.MaxRefs][2]int
 }
 
-// endsOfAll: the places to which a node leads from any of some places.
-func (x *node) endsOfAll(line string, places uint32) uint32 {
-	to := uint32(0)
-	for i := 0; i <= len(line); i++ {
-		if places&(1<<i) != 0 {
-			to |= x.ends(line, i)
+// spots: each stands there once.
+type spots map[spot]bool
+
+// oracle: a line, and the groups that are referred to.
+type oracle struct {
+	line string
+	refs []int
+}
+
+// ways: where the ways of a node lead from some spots.
+func (o *oracle) ways(x *node, from spots) spots {
+	to := spots{}
+	for s := range from {
+		for e := range o.waysFrom(x, s) {
+			to[e] = true
 		}
 	}
 	return to
 }
 
-func (x *node) endsOfTimes(line string, i int) uint32 {
-	part := x.parts[0]
-	at := uint32(1) << i
-	for k := 0; k < x.least; k++ {
-		at = part.endsOfAll(line, at)
+func (o *oracle) waysFrom(x *node, s spot) spots {
+	to := spots{}
+	switch x.kind {
+	case 'b':
+		if s.at < len(o.line) && strings.IndexByte(x.bytes, o.line[s.at]) >= 0 {
+			s.at++
+			to[s] = true
+		}
+	case '^':
+		if s.at == 0 {
+			to[s] = true
+		}
+	case '$':
+		if s.at == len(o.line) {
+			to[s] = true
+		}
+	case '\\':
+		held := s.held[slices.Index(o.refs, x.number)]
+		if held[0] > 0 && strings.HasPrefix(o.line[s.at:], o.line[held[0]-1:held[1]-1]) {
+			s.at += held[1] - held[0]
+			to[s] = true
+		}
+	case 'r':
+		return o.waysOfRow(x, s)
+	case 'g':
+		slot := slices.Index(o.refs, x.number)
+		for e := range o.waysOfRow(x, s) {
+			if slot >= 0 {
+				e.held[slot] = [2]int{s.at + 1, e.at + 1}
+			}
+			to[e] = true
+		}
+	case '*':
+		return o.waysOfTimes(x, s)
 	}
-	to := at
-	// Each time beyond the least number has a byte, so that there are no more of them than the line has bytes.
-	for k := x.least; k != x.most && k < x.least+len(line); k++ {
-		longer := uint32(0)
-		for j := 0; j <= len(line); j++ {
-			if at&(1<<j) != 0 {
-				longer |= part.ends(line, j) &^ (1 << j)
+	return to
+}
+
+func (o *oracle) waysOfRow(x *node, s spot) spots {
+	at := spots{s: true}
+	for _, part := range x.parts {
+		at = o.ways(part, at)
+	}
+	return at
+}
+
+func (o *oracle) waysOfTimes(x *node, s spot) spots {
+	part := x.parts[0]
+	at := spots{s: true}
+	for k := 0; k < x.least; k++ {
+		at = o.ways(part, at)
+	}
+	to := maps.Clone(at)
+	for k := x.least; k != x.most && len(at) > 0; k++ {
+		longer := spots{}
+		for s := range at {
+			for e := range o.waysFrom(part, s) {
+				if e.at > s.at {
+					longer[e] = true
+					to[e] = true
+				}
 			}
 		}
 		at = longer
-		to |= at
 	}
 	return to
 }
 
-func (x *node) find(line string, from int) (int, int) {
-	for i := from; i >= 0 && i <= len(line); i++ {
-		to := x.ends(line, i)
-		for j := len(line); j >= i; j-- {
-			if to&(1<<j) != 0 {
-				return i, j
-			}
+// longest: for each place of the line, the end of the longest match that begins there; or -1.
+func (o *oracle) longest(x *node) []int {
+	var ends []int
+	for i := 0; i <= len(o.line); i++ {
+		end := -1
+		for s := range o.waysFrom(x, spot{at: i}) {
+			end = max(end, s.at)
+		}
+		ends = append(ends, end)
+	}
+	return ends
+}
+
+// first: the match to be found from a place on.
+func first(ends []int, from int) (int, int) {
+	for i := from; i >= 0 && i < len(ends); i++ {
+		if ends[i] >= 0 {
+			return i, ends[i]
 		}
 	}
 	return -1, 0
 }
 
-func TestFindAgainstAllWays(t *testing.T) {
-	m := &maker{seed: 7}
+// checkMadeUp compares Find with the oracle, in some lines, and tells how many times something was found.
+func checkMadeUp(t *testing.T, m *maker, x *Prog, row *node) int {
+	t.Helper()
+	found := 0
+	for n := 0; n < 4; n++ {
+		o := &oracle{line: m.line(), refs: m.refs}
+		ends := o.longest(row)
+		for from := -1; from <= len(o.line)+1; from++ {
+			i, j := first(ends, from)
+			checkFind(t, x, row.text, o.line, from, i, j)
+			if j > i {
+				found++
+			}
+		}
+	}
+	return found
+}
+
+func checkAllWays(t *testing.T, m *maker, patterns int) {
 	tried := 0
-	for k := 0; k < 20000; k++ {
-		m.groups = 0
-		row := m.row(3)
+	found := 0
+	for tried < patterns {
+		row := m.pattern()
 		x, errno, at := Compile(row.text)
-		if errno == api.ErrLong || errno == api.ErrBig {
+		if errno == api.ErrLong || errno == api.ErrBig || m.back && len(m.refs) == 0 {
 			continue
 		}
 		if x == nil || errno != api.OK {
 			t.Fatalf("Compile(%q): %v, error %d at %d", row.text, x, errno, at)
 		}
 		tried++
-		for n := 0; n < 4; n++ {
-			line := m.line()
-			for from := -1; from <= len(line)+1; from++ {
-				i, j := row.find(line, from)
-				checkFind(t, x, row.text, line, from, i, j)
-			}
-		}
+		found += checkMadeUp(t, m, x, row)
 	}
-	if tried < 10000 {
-		t.Errorf("only %d patterns were tried", tried)
+	if found < patterns {
+		t.Errorf("something was found only %d times, with %d patterns", found, patterns)
 	}
+}
+
+func TestFindAgainstAllWays(t *testing.T) {
+	checkAllWays(t, &maker{seed: 7}, 10000)
+}
+
+func TestFindWithReferencesAgainstAllWays(t *testing.T) {
+	checkAllWays(t, &maker{seed: 8, back: true}, 3000)
 }

@@ -11,83 +11,29 @@ const (
 	begin             // only at the line's beginning, then next
 	end               // only at the line's end, then next
 	fork              // next and other, both
+	open              // the group of slot begins, then next
+	shut              // the group of slot ends, then next
+	back              // what the group of slot has matched, then next
+	gain              // the innermost time around it ends, if it has had a byte; then next
 )
 
-// step: the fields that its kind does not name are zero.
+// step: the fields that its kind does not name are zero, but for depth and first.
 type step struct {
 	kind  kind
 	set   syntax.Set
+	slot  int // groups that are referred to have slots, from 0 on
 	next  int
 	other int
+	depth int // how many times stand around it that must have a byte
+	first int // its level 0, among the levels of all steps
 }
 
 // Code: a pattern as steps; next, other and entry are their places in the list. Items that are repeated stand there as often as they may match; the bound on a pattern's size bounds the steps too.
+//
+// A way that is at a step has a level: how many of the times around the step have had a byte. A time that has begun sooner has had every byte that an inner one has had; so the number tells which ones they are. It is 0 to the step's depth.
 type Code struct {
-	steps []step
-	entry int
-}
-
-// Build makes the steps of a pattern without references back.
-func Build(row []syntax.Item) Code {
-	c := Code{}
-	last := c.put(step{kind: done})
-	entry := c.row(row, last)
-	c.entry = entry
-	return c
-}
-
-// put lays a step behind the others, and tells its place.
-func (c *Code) put(s step) int {
-	at := len(c.steps)
-	c.steps = append(c.steps, s)
-	return at
-}
-
-// row lays the steps of a row that goes on at next, the last item first, and tells where the row begins.
-func (c *Code) row(items []syntax.Item, next int) int {
-	entry := next
-	for i := len(items) - 1; i >= 0; i-- {
-		entry = c.item(&items[i], entry)
-	}
-	return entry
-}
-
-func (c *Code) item(x *syntax.Item, next int) int {
-	switch x.Kind {
-	case syntax.One:
-		return c.put(step{kind: one, set: x.Set, next: next})
-	case syntax.Begin:
-		return c.put(step{kind: begin, next: next})
-	case syntax.End:
-		return c.put(step{kind: end, next: next})
-	case syntax.Group:
-		return c.row(x.Row, next)
-	case syntax.Repeat:
-		return c.repeat(x, next)
-	}
-	return next
-}
-
-// repeat lets the times beyond the least number match no byte too: where nothing refers to groups, such a time can be left out, and there are no other matches by it.
-func (c *Code) repeat(x *syntax.Item, next int) int {
-	entry := next
-	if x.Most == syntax.NoMost {
-		entry = c.loop(x, next)
-	}
-	for k := x.Least; k < x.Most; k++ {
-		again := c.row(x.Row, entry)
-		entry = c.put(step{kind: fork, next: again, other: next})
-	}
-	for k := 0; k < x.Least; k++ {
-		entry = c.row(x.Row, entry)
-	}
-	return entry
-}
-
-// loop: the item any number of times.
-func (c *Code) loop(x *syntax.Item, next int) int {
-	entry := c.put(step{kind: fork, other: next})
-	again := c.row(x.Row, entry)
-	c.steps[entry].next = again
-	return entry
+	steps  []step
+	entry  int
+	slots  int
+	levels int // of all steps
 }

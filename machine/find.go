@@ -25,6 +25,9 @@ type search struct {
 
 // Find tells the match that begins first, at from or behind it, and of those that begin there the longest.
 func (c *Code) Find(line string, from int) (int, int, bool) {
+	if c.slots > 0 {
+		return c.findBack(line, from)
+	}
 	size := len(c.steps)
 	if from < 0 || from > len(line) || size == 0 {
 		return 0, 0, false

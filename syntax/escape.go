@@ -52,15 +52,24 @@ func (r *reader) reference(number int) api.Errno {
 	if number > r.groups || !r.closed[number] {
 		return api.ErrBack
 	}
-	if !r.referred[number] {
-		if r.refs >= api.MaxRefs {
+	if !r.refersTo(number) {
+		if len(r.refs) >= api.MaxRefs {
 			return api.ErrBack
 		}
-		r.referred[number] = true
-		r.refs++
+		r.refs = append(r.refs, number)
 	}
 	r.put(Item{Kind: Back, Number: number}, 2)
 	return api.OK
+}
+
+// refersTo tells whether there was a reference to a group already.
+func (r *reader) refersTo(number int) bool {
+	for _, n := range r.refs {
+		if n == number {
+			return true
+		}
+	}
+	return false
 }
 
 func (r *reader) interval() api.Errno {

@@ -11,14 +11,13 @@ type row struct {
 
 // reader: a pattern that is being read. A step that fails leaves at on the place of the fault.
 type reader struct {
-	s        string
-	at       int
-	inner    row   // the row that gets the next item
-	outer    []row // the rows around it, the innermost last
-	groups   int
-	closed   [api.MaxGroups + 1]bool
-	referred [api.MaxGroups + 1]bool
-	refs     int // how many groups are referred to
+	s      string
+	at     int
+	inner  row   // the row that gets the next item
+	outer  []row // the rows around it, the innermost last
+	groups int
+	closed [api.MaxGroups + 1]bool
+	refs   []int // the groups that are referred to
 }
 
 // Parse makes the tree of a pattern; or it tells the pattern's first error, and its place.

@@ -2,6 +2,7 @@ package syntax
 
 import (
 	"fmt"
+	"slices"
 	"strings"
 	"testing"
 
@@ -104,20 +105,23 @@ func TestTrees(t *testing.T) {
 func TestNoTreeBesideAnError(t *testing.T) {
 	for _, p := range []string{strings.Repeat("a", 61), "a\n", `\(a\)\`, `\(a\)[`, `\(a\)\(b`, `a\{20\}\{20\}`} {
 		tree, errno, _ := Parse(p)
-		if errno == api.OK || tree.Row != nil || tree.Groups != 0 || tree.Refs != 0 {
+		if errno == api.OK || tree.Row != nil || tree.Groups != 0 || tree.Refs != nil {
 			t.Errorf("Parse(%q): %v beside error %d", p, tree, errno)
 		}
 	}
 }
 
-func TestHowManyAreReferredTo(t *testing.T) {
+func TestWhichAreReferredTo(t *testing.T) {
 	for _, c := range []struct {
 		pattern string
-		want    int
-	}{{"", 0}, {`\(a\)`, 0}, {`\(a\)[\1]`, 0}, {`\(a\)\1`, 1}, {`\(a\)\1\1`, 1}, {`\(a\)\1\{0\}`, 1}, {`\(a\)\(b\)\2`, 1}, {`\(a\)\(b\)\2\1\2`, 2}} {
+		want    []int
+	}{
+		{"", nil}, {`\(a\)`, nil}, {`\(a\)[\1]`, nil}, {`\(a\)\1`, []int{1}}, {`\(a\)\1\1`, []int{1}}, {`\(a\)\1\{0\}`, []int{1}},
+		{`\(a\)\(b\)\2`, []int{2}}, {`\(a\)\(b\)\2\1\2`, []int{2, 1}}, {`\(\(a\)\2\)\1`, []int{2, 1}},
+	} {
 		tree, errno, _ := Parse(c.pattern)
-		if errno != api.OK || tree.Refs != c.want {
-			t.Errorf("Parse(%q): %d referred to, error %d; want %d", c.pattern, tree.Refs, errno, c.want)
+		if errno != api.OK || !slices.Equal(tree.Refs, c.want) {
+			t.Errorf("Parse(%q): %v are referred to, error %d; want %v", c.pattern, tree.Refs, errno, c.want)
 		}
 	}
 }

@@ -26,11 +26,11 @@ type Item struct {
 	Row    []Item
 }
 
-// Tree: a pattern: its row of items, how many groups there are in it, and how many of them are referred to.
+// Tree: a pattern: its row of items, how many groups there are in it, and the numbers of those that are referred to, in the order of their first references.
 type Tree struct {
 	Row    []Item
 	Groups int
-	Refs   int
+	Refs   []int
 }
 
 // Set: a set of bytes.
