@@ -2,7 +2,6 @@ package grep
 
 import (
 	"math"
-	"slices"
 	"strings"
 	"testing"
 
@@ -30,12 +29,15 @@ func checkCalls(t *testing.T, pattern string) {
 	if groups := x.Groups(); groups < 0 || groups > api.MaxGroups || groups > 0 && x == nil {
 		t.Errorf("Groups() of %q: %d", pattern, groups)
 	}
-	for _, line := range []string{"", "a", "a\n\xff", "aaaa"} {
+	for k, line := range []string{"", "a", "a\n\xff", "aaaa"} {
 		for _, from := range []int{math.MinInt, -1, 0, 1, len(line), len(line) + 1, math.MaxInt} {
 			x.Find(line, from)
 		}
 		x.All(line)
-		Grep(pattern, line, api.Options{})
+		out, status := Grep(pattern, line, optionsOf(k*3))
+		if (status == 2) != (x == nil) || status < 0 || status > 2 || status == 2 && out != "" {
+			t.Errorf("Grep(%q, %q): %q, %d, beside error %d", pattern, line, out, status, errno)
+		}
 	}
 }
 
@@ -74,7 +76,8 @@ func TestGreatStrings(t *testing.T) {
 		if x != nil || errno != api.ErrLong || at != 0 {
 			t.Errorf("Compile(1000000 times %q): %v, %d, %d", part, x, errno, at)
 		}
-		Grep(great, great, api.Options{})
+		checkEveryOption(t, great, great, "", 2)
+		checkEveryOption(t, great, "a", "", 2)
 	}
 }
 
@@ -86,7 +89,9 @@ func TestCallsOfNoPattern(t *testing.T) {
 		if i, j, ok := x.Find("a", 0); i != 0 || j != 0 || ok {
 			t.Errorf("Find of no pattern: %d, %d, %v", i, j, ok)
 		}
-		x.All("a")
+		if spans := x.All("a"); len(spans) != 0 {
+			t.Errorf("All of no pattern: %v", spans)
+		}
 	}
 }
 
@@ -103,26 +108,6 @@ func TestNoPatternHangsOnAnother(t *testing.T) {
 	for i, x := range patterns {
 		if got := x.Groups(); got != i%10 {
 			t.Errorf("Groups() of pattern %d: %d, want %d", i, got, i%10)
-		}
-	}
-}
-
-func TestListsAreTheCallers(t *testing.T) {
-	x, errno, _ := Compile("ab*")
-	if x == nil || errno != api.OK {
-		t.Fatalf("error %d", errno)
-	}
-	const line = "abxabbxa"
-	want := append([]api.Span{}, x.All(line)...)
-	first := x.All(line)
-	second := x.All(line)
-	room := first[:cap(first)]
-	for i := range room {
-		room[i] = api.Span{From: -1, To: -1}
-	}
-	for name, got := range map[string][]api.Span{"the one handed out ahead": second, "the next": x.All(line)} {
-		if !slices.Equal(got, want) {
-			t.Errorf("%s: %v, want %v", name, got, want)
 		}
 	}
 }

@@ -39,8 +39,21 @@ func (x *Prog) Find(line string, from int) (int, int, bool) {
 	return x.code.Find(line, from)
 }
 
-// All: the matches that have a byte (P5). Not built yet: there are none.
-func (x *Prog) All(line string) []api.Span { return nil }
-
-// Grep: a text, line by line (P6). Not built yet: the answer is empty.
-func Grep(pattern string, text string, o api.Options) (string, int) { return "", 0 }
+// All: the matches that have a byte (P5).
+func (x *Prog) All(line string) []api.Span {
+	var spans []api.Span
+	from := 0
+	for from <= len(line) {
+		i, j, found := x.Find(line, from)
+		if !found {
+			return spans
+		}
+		// Behind a match without a byte the place moves on all the same: so the search ends.
+		from = i + 1
+		if j > i {
+			spans = append(spans, api.Span{From: i, To: j})
+			from = j
+		}
+	}
+	return spans
+}

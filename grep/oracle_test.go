@@ -257,13 +257,33 @@ func first(ends []int, from int) (int, int) {
 	return -1, 0
 }
 
-// checkMadeUp compares Find with the oracle, in some lines, and tells how many times something was found.
+// spansOf: what All is to give of a line.
+func spansOf(ends []int) []api.Span {
+	var spans []api.Span
+	from := 0
+	for {
+		i, j := first(ends, from)
+		if i < 0 {
+			return spans
+		}
+		if j > i {
+			spans = append(spans, api.Span{From: i, To: j})
+		}
+		from = max(i+1, j)
+	}
+}
+
+// checkMadeUp compares Find, All and Grep with the oracle, in some lines, and tells how many times something was found.
 func checkMadeUp(t *testing.T, m *maker, x *Prog, row *node) int {
 	t.Helper()
 	found := 0
+	var lines []seenLine
 	for n := 0; n < 4; n++ {
 		o := &oracle{line: m.line(), refs: m.refs}
 		ends := o.longest(row)
+		i, _ := first(ends, 0)
+		lines = append(lines, seenLine{text: o.line, found: i >= 0, spans: spansOf(ends)})
+		checkAll(t, x, row.text, o.line, spansOf(ends))
 		for from := -1; from <= len(o.line)+1; from++ {
 			i, j := first(ends, from)
 			checkFind(t, x, row.text, o.line, from, i, j)
@@ -272,6 +292,7 @@ func checkMadeUp(t *testing.T, m *maker, x *Prog, row *node) int {
 			}
 		}
 	}
+	checkGrepOfLines(t, row.text, lines, optionsOf(m.below(16)))
 	return found
 }
 
@@ -295,10 +316,10 @@ func checkAllWays(t *testing.T, m *maker, patterns int) {
 	}
 }
 
-func TestFindAgainstAllWays(t *testing.T) {
+func TestAgainstAllWays(t *testing.T) {
 	checkAllWays(t, &maker{seed: 7}, 10000)
 }
 
-func TestFindWithReferencesAgainstAllWays(t *testing.T) {
+func TestReferencesAgainstAllWays(t *testing.T) {
 	checkAllWays(t, &maker{seed: 8, back: true}, 3000)
 }
